@@ -1,0 +1,1 @@
+"""Which note: a period is a note, and notes are told from frame to frame."""
